@@ -156,8 +156,10 @@ func sameInt(a, b api.Int) bool { return a.Neg == b.Neg && slices.Equal(a.Mag, b
 
 func same(a, b api.Rat) bool { return sameInt(a.N, b.N) && slices.Equal(a.D, b.D) }
 
-// isZeroValue tells whether nothing is in a: no limbs, no sign, no D.
-func isZeroValue(a api.Rat) bool { return !a.N.Neg && len(a.N.Mag) == 0 && len(a.D) == 0 }
+// isZero tells whether a is the right 0: N without limbs and without a sign, D the one limb 1.
+func isZero(a api.Rat) bool {
+	return !a.N.Neg && len(a.N.Mag) == 0 && slices.Equal(a.D, []uint32{1}) && rat.Right(a)
+}
 
 func wantSame(t *testing.T, what string, got, must api.Rat) {
 	t.Helper()

@@ -111,20 +111,18 @@ func TestOneTextOfEach(t *testing.T) {
 
 // What holds of fractions, whatever the call.
 
-// answers are those of all calls that answer fractions, whole numbers as such, but for those beside an error.
+// answers are those of all calls that answer fractions, those beside an error or a false too, and whole numbers as such.
 func answers(a, b api.Rat) []api.Rat {
 	back, _ := rat.Parse(rat.Text(a))
-	out := []api.Rat{
-		rat.Int(a.N), rat.Neg(a), rat.Add(a, b), rat.Sub(a, b), rat.Mul(a, b), back,
+	noOne, _ := rat.Parse(rat.Text(a) + "/1")
+	over, _ := rat.Div(a, b)
+	byNothing, _ := rat.Div(a, api.Rat{})
+	of, _ := rat.Of(a.N, b.N)
+	ofNothing, _ := rat.Of(a.N, api.Int{})
+	return []api.Rat{
+		rat.Int(a.N), rat.Neg(a), rat.Add(a, b), rat.Sub(a, b), rat.Mul(a, b), back, noOne, over, byNothing, of, ofNothing,
 		{N: rat.Floor(a), D: []uint32{1}}, {N: rat.Ceil(a), D: []uint32{1}},
 	}
-	if q, e := rat.Div(a, b); e == api.OK {
-		out = append(out, q)
-	}
-	if q, e := rat.Of(a.N, b.N); e == api.OK {
-		out = append(out, q)
-	}
-	return out
 }
 
 // few are enough edges to be held against each other, one and all.

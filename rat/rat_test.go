@@ -50,7 +50,7 @@ func TestOf(t *testing.T) {
 		for _, d := range edgeNs() {
 			got, e := rat.Of(n, d)
 			if wantInt(d).Sign() == 0 {
-				if e != api.ErrZero || !isZeroValue(got) {
+				if e != api.ErrZero || !isZero(got) {
 					t.Errorf("Of %v and %v: %v %v", n, d, got, e)
 				}
 				continue
@@ -99,7 +99,7 @@ func TestDiv(t *testing.T) {
 		x, y := want(p[0]), want(p[1])
 		q, e := rat.Div(p[0], p[1])
 		if y.Sign() == 0 {
-			if e != api.ErrZero || !isZeroValue(q) {
+			if e != api.ErrZero || !isZero(q) {
 				t.Errorf("Div of %v by %v: %v %v", p[0], p[1], q, e)
 			}
 			continue
@@ -115,7 +115,7 @@ func TestDivByNothing(t *testing.T) {
 	zeros := []api.Rat{{}, {D: []uint32{0}}, {D: []uint32{1}}, {D: []uint32{7}}, {N: api.Int{Neg: true, Mag: []uint32{0}}, D: []uint32{0, 1}}, {N: api.Int{Neg: true}}}
 	for _, a := range append(edges(), zeros...) {
 		for _, zero := range zeros {
-			if q, e := rat.Div(a, zero); e != api.ErrZero || !isZeroValue(q) {
+			if q, e := rat.Div(a, zero); e != api.ErrZero || !isZero(q) {
 				t.Errorf("Div of %v by %v: %v %v", a, zero, q, e)
 			}
 		}
@@ -200,7 +200,7 @@ func TestParseOfNoFraction(t *testing.T) {
 		"1.5", "0.5", "1/2.0", "1e3", "1/1e3", "0x1/2", "1/0x2", "a/b", "1/b", "a/2", "1_0/3", "1/1_1", "\u0661/2", "1/\u0662", "1\u20442", "\xff/2", "1/\xff", "-", "1/2-", "1-/2",
 		strings.Repeat("6", 300) + "/" + strings.Repeat("9", 100),
 	} {
-		if got, ok := rat.Parse(s); ok || !isZeroValue(got) {
+		if got, ok := rat.Parse(s); ok || !isZero(got) {
 			t.Errorf("Parse of %q: %v %v", s, got, ok)
 		}
 	}

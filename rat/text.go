@@ -20,12 +20,12 @@ func Text(a api.Rat) string {
 	})
 }
 
-// Parse is the fraction of a text.
+// Parse is the fraction of a text; beside false stands the right 0, as answers are right there, too.
 func Parse(s string) (api.Rat, bool) {
 	above, below, parted := strings.Cut(s, stroke)
 	n, ok := big.Parse(above)
 	if !ok {
-		return api.Rat{}, false
+		return From(0), false
 	}
 	if !parted {
 		return Int(n), true
@@ -34,7 +34,7 @@ func Parse(s string) (api.Rat, bool) {
 	a := api.Rat{N: n, D: d}
 	// A D of 1 is not written; one that is no D at all, or not in lowest terms, is no right fraction's.
 	if !ok || isOne(d) || !Right(a) {
-		return api.Rat{}, false
+		return From(0), false
 	}
 	return a, true
 }
